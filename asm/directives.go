@@ -6,76 +6,82 @@ import (
 	"candling/api"
 )
 
-// directive is what a directive does with its operands.
-type directive func(*assembler, []operand)
+// directive is how many operands a directive has, at least and at most, and what it does with them.
+type directive struct {
+	least, most int
+	do          func(*assembler, []operand)
+}
+
+// anyNumber is more operands than a line has.
+const anyNumber = api.MaxSource + 1
 
 // directives returns them by their names.
 func directives() map[string]directive {
 	return map[string]directive{
-		".section": (*assembler).sectionDirective,
+		".section": {1, 2, (*assembler).sectionDirective},
 		".text":    entering("text", api.RtRead|api.RtExec),
 		".data":    entering("data", api.RtRead|api.RtWrite),
-		".align":   (*assembler).alignDirective,
+		".align":   {1, 1, (*assembler).alignDirective},
 		".byte":    numbering(api.RlByte, 1),
 		".half":    numbering(api.RlHalf, 2),
 		".word":    numbering(api.RlWord, 4),
 		".diff":    pointing(api.RlDiff),
 		".page":    pointing(api.RlPage),
-		".ascii":   (*assembler).asciiDirective,
-		".zero":    (*assembler).zeroDirective,
-		".reserve": (*assembler).reserveDirective,
+		".ascii":   {1, anyNumber, (*assembler).asciiDirective},
+		".zero":    {1, 1, (*assembler).zeroDirective},
+		".reserve": {1, 1, (*assembler).reserveDirective},
 		".global":  naming(func(a *assembler, i int) { a.bind(i, api.SbGlobal) }),
 		".weak":    naming(func(a *assembler, i int) { a.bind(i, api.SbWeak) }),
 		".local":   naming(func(a *assembler, i int) { a.bind(i, api.SbLocal) }),
 		".import":  naming((*assembler).importSymbol),
-		".abs":     (*assembler).absDirective,
+		".abs":     {2, 2, (*assembler).absDirective},
 		".func":    naming((*assembler).markFunc),
 		".object":  naming((*assembler).markData),
-		".size":    (*assembler).sizeDirective,
-		".equ":     (*assembler).equDirective,
-		".file":    (*assembler).fileDirective,
-		".loc":     (*assembler).locDirective,
+		".size":    {2, 2, (*assembler).sizeDirective},
+		".equ":     {2, 2, (*assembler).equDirective},
+		".file":    {1, 1, (*assembler).fileDirective},
+		".loc":     {1, 1, (*assembler).locDirective},
 	}
 }
 
-// mustHave ends the work unless there are as many operands as a directive has.
-func mustHave(l []operand, least, most int) {
-	must(len(l) >= least && len(l) <= most, api.ErrSyntax)
+// direct lets a directive do its work, which has to have as many operands as it takes.
+func (a *assembler) direct(d directive, l []operand) {
+	must(len(l) >= d.least && len(l) <= d.most, api.ErrSyntax)
+	d.do(a, l)
 }
 
 func mustBeWithin(n, least, most int) { must(n >= least && n <= most, api.ErrValue) }
 
 // entering returns the directive of a section with a name of its own.
 func entering(name string, rights int) directive {
-	return func(a *assembler, l []operand) {
-		mustHave(l, 0, 0)
-		a.enter(name, rights)
-	}
+	return directive{0, 0, func(a *assembler, _ []operand) { a.enter(name, rights) }}
 }
 
 // naming returns a directive of names of symbols, which it changes one after the other.
 func naming(change func(a *assembler, i int)) directive {
-	return func(a *assembler, l []operand) {
+	return directive{1, anyNumber, func(a *assembler, l []operand) {
 		for _, name := range readList(l, readName) {
 			change(a, a.declare(name))
 		}
-	}
+	}}
 }
 
 // numbering returns a directive of numbers and addresses of some bytes each.
 func numbering(kind, size int) directive {
-	return func(a *assembler, l []operand) { a.data(readList(l, a.readSum), kind, size) }
+	return directive{1, anyNumber, func(a *assembler, l []operand) {
+		a.data(readList(l, a.readSum), kind, size)
+	}}
 }
 
 // pointing returns a directive of addresses alone.
 func pointing(kind int) directive {
-	return func(a *assembler, l []operand) {
+	return directive{1, anyNumber, func(a *assembler, l []operand) {
 		sums := readList(l, a.readSum)
 		for _, s := range sums {
 			must(s.hasSymbol(), api.ErrSyntax)
 		}
 		a.data(sums, kind, 4)
-	}
+	}}
 }
 
 // data appends sums of some bytes each.
@@ -104,7 +110,6 @@ func appendNumber(b []byte, n, size int) []byte {
 }
 
 func (a *assembler) sectionDirective(l []operand) {
-	mustHave(l, 1, 2)
 	names := readList(l, readName)
 	rights := 0
 	if len(names) == 2 {
@@ -115,7 +120,6 @@ func (a *assembler) sectionDirective(l []operand) {
 }
 
 func (a *assembler) alignDirective(l []operand) {
-	mustHave(l, 1, 1)
 	n := a.readPlain(l[0])
 	must(isAlignment(n), api.ErrValue)
 	a.align(n)
@@ -135,7 +139,6 @@ func (a *assembler) reserveDirective(l []operand) { a.reserve(a.readCount(l)) }
 
 // readCount reads the only operand of a directive, which is a number of bytes.
 func (a *assembler) readCount(l []operand) int {
-	mustHave(l, 1, 1)
 	n := a.readPlain(l[0])
 	mustBeWithin(n, 0, api.MaxObjLen)
 	return n
@@ -143,7 +146,6 @@ func (a *assembler) readCount(l []operand) int {
 
 // readValued reads a name and a number.
 func (a *assembler) readValued(l []operand) (string, int) {
-	mustHave(l, 2, 2)
 	name := readName(l[0])
 	n := a.readPlain(l[1])
 	return name, n
@@ -175,14 +177,12 @@ func (a *assembler) equDirective(l []operand) {
 }
 
 func (a *assembler) fileDirective(l []operand) {
-	mustHave(l, 1, 1)
 	name := readString(l[0])
 	must(isFileName(name), api.ErrValue)
 	a.file = a.fileIndex(name)
 }
 
 func (a *assembler) locDirective(l []operand) {
-	mustHave(l, 1, 1)
 	n := a.readPlain(l[0])
 	mustBeWithin(n, 0, api.MaxLine)
 	must(n == 0 || a.file != none, api.ErrSyntax)

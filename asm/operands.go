@@ -28,9 +28,8 @@ func split(l []api.Token) []operand {
 
 func isSign(t api.Token, sign string) bool { return t.Kind == api.TkSign && t.S == sign }
 
-// readList reads one or more operands of a directive that are all of one kind.
+// readList reads operands of a directive that are all of one kind.
 func readList[T any](l []operand, read func(operand) T) []T {
-	must(len(l) > 0, api.ErrSyntax)
 	var values []T
 	for _, o := range l {
 		values = append(values, read(o))
