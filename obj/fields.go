@@ -10,6 +10,10 @@ import (
 
 // SymbolAt returns the index of the symbol that covers an offset of a section.
 func SymbolAt(o api.Object, section, off int) (int, bool) {
+	// Symbols name sections that there are not: SecNone, SecAbs, and any number where the object is not valid.
+	if !isIndex(section, o.Sections) {
+		return 0, false
+	}
 	best, found := 0, false
 	for i, s := range o.Symbols {
 		if s.Section == section && covers(s, off) && (!found || isNearer(s, o.Symbols[best])) {

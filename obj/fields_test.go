@@ -59,6 +59,34 @@ func TestSymbolAtOfInvalidObjects(t *testing.T) {
 	}
 }
 
+// P3.4: where there is no section, no symbol is of it.
+func TestSymbolAtWithoutSection(t *testing.T) {
+	numbers := []int{math.MinInt, -3, api.SecAbs, api.SecNone, 0, 1, 2, 3, math.MaxInt}
+	o := api.Object{}
+	for _, n := range numbers {
+		o.Symbols = append(o.Symbols, symbol("x", n, 5, 2, api.SbGlobal, api.SyNone))
+	}
+	for length := range 4 {
+		o.Sections = make([]api.Section, length)
+		for want, section := range numbers {
+			isThere := section >= 0 && section < length
+			if !isThere {
+				want = 0
+			}
+			for _, off := range []int{5, 6} {
+				if i, found := obj.SymbolAt(o, section, off); i != want || found != isThere {
+					t.Errorf("SymbolAt of %d, %d with %d sections: %d, %v, want %d, %v", section, off, length, i, found, want, isThere)
+				}
+			}
+			for _, off := range []int{0, 4, 7, -1} {
+				if i, found := obj.SymbolAt(o, section, off); i != 0 || found {
+					t.Errorf("SymbolAt of %d, %d with %d sections: %d, %v", section, off, length, i, found)
+				}
+			}
+		}
+	}
+}
+
 // P3.9: no symbol that covers an offset is nearer than that of SymbolAt.
 func TestNearestSymbols(t *testing.T) {
 	covering := 0
